@@ -132,11 +132,15 @@ func kidsOf(t []Node) iter.Seq[[]Node] {
 	}
 }
 
-// kidSpans goes from the root to the front, since only a term's end tells where it begins.
 func kidSpans(t []Node) []span {
-	all := slices.Collect(spans(t))
-	kids := make([]span, t[len(t)-1].Kids)
-	next := len(t) - 2
+	return spansBelow(t, slices.Collect(spans(t)), len(t)-1)
+}
+
+// spansBelow picks the kids of one root out of all spans of a list, from the root to the front, since
+// only a term's end tells where it begins.
+func spansBelow(t []Node, all []span, root int) []span {
+	kids := make([]span, t[root].Kids)
+	next := root - 1
 	for k := range slices.Backward(kids) {
 		kids[k] = all[next]
 		next = all[next].from - 1
