@@ -36,7 +36,7 @@ func TestWaysStayShort(t *testing.T) {
 		cells := unknownsOf(1 << 10)
 		for i := range len(cells) - 1 {
 			a, b := next(i)
-			if err := equate(cells[a], cells[b]); err != nil {
+			if err := newStore().equate(cells[a], cells[b]); err != nil {
 				t.Fatal(err)
 			}
 		}
@@ -56,7 +56,7 @@ func TestRanks(t *testing.T) {
 	cells := unknownsOf(100)
 	head := cells[0]
 	for _, c := range cells[1:] {
-		tie(c, head)
+		newStore().tie(c, head)
 		head = head.head()
 	}
 	for i, c := range cells {
@@ -75,7 +75,7 @@ func TestWaysAreCompressed(t *testing.T) {
 	for step := 1; step < len(cells); step *= 2 {
 		for i := 0; i < len(cells); i += 2 * step {
 			head, other := cells[i].head(), cells[i+step].head()
-			tie(head, other)
+			newStore().tie(head, other)
 		}
 	}
 	longest := slices.MaxFunc(cells, func(a, b *cell) int { return a.wayUp() - b.wayUp() })
@@ -103,14 +103,14 @@ func TestTieSays(t *testing.T) {
 		says := &cell{node: Node{Kind: TCon, Text: "list", Kids: 1}, kids: unknownsOf(1)}
 		other := unknownsOf(2)[1]
 		other.rank = rank
-		tie(says, other)
+		newStore().tie(says, other)
 		head := says.head()
 		if head != other.head() || head.node.Text != "list" || len(head.kids) != 1 || head.isOpen() {
 			t.Errorf("rank %d: %v", rank, head.node)
 		}
 		fixed, open := unknownsOf(1)[0], unknownsOf(2)[1]
 		fixed.level, open.rank = levelFixed, rank
-		tie(fixed, open)
+		newStore().tie(fixed, open)
 		if open.head().isOpen() || open.head().node.Num != 1 {
 			t.Errorf("rank %d: %v is told by one that stands for itself", rank, open.head().node)
 		}
@@ -124,12 +124,12 @@ func TestLevels(t *testing.T) {
 	if open.kids[0] != open.kids[1] || fixed.kids[0] != fixed.kids[1] || open.kids[0] == fixed.kids[0] || len(s.unknowns) != 2 {
 		t.Error("an unknown is one cell, on each level another")
 	}
-	if err := equate(open, fixed); err != nil || open.kids[0].head().isOpen() {
+	if err := s.equate(open, fixed); err != nil || open.kids[0].head().isOpen() {
 		t.Error("an unknown that stands for itself may be what another one is", err)
 	}
 	number := &cell{node: Node{Kind: TNum, Num: 1}}
 	var found *clash
-	if err := equate(fixed.kids[0], number); !errors.As(err, &found) || found.one == found.other {
+	if err := s.equate(fixed.kids[0], number); !errors.As(err, &found) || found.one == found.other {
 		t.Error("an unknown that stands for itself is nothing else", err)
 	}
 }
@@ -150,7 +150,7 @@ func TestFaults(t *testing.T) {
 		text    string
 	}{
 		{[]Pair{{A: meta(1), B: meta(2)}, {A: list(meta(1)), B: double(meta(1))}, {A: meta(1), B: meta(3)}}, true, 1, "differ"},
-		{[]Pair{{A: meta(1), B: list(meta(1))}, {A: meta(1), B: meta(1)}}, true, 1, "in itself"},
+		{[]Pair{{A: meta(1), B: list(meta(1))}, {A: meta(1), B: meta(1)}}, true, 0, "in itself"},
 		{large, false, 8, "too large"},
 		{slices.Concat(large, []Pair{{A: meta(5), B: list(meta(5))}}), true, 9, "differ"},
 		{slices.Concat(large, []Pair{{A: meta(50), B: list(meta(50))}}), true, 9, "in itself"},
@@ -166,5 +166,83 @@ func TestFaults(t *testing.T) {
 	}
 	if s, err := solve(nil); err != nil || isClash(err) || len(s.unknowns) != 0 {
 		t.Error("nothing is wrong with nothing", err)
+	}
+}
+
+// A type that is brought down to a level is so with all that stands in it, and never brought up again.
+func TestLower(t *testing.T) {
+	unknowns := unknownsOf(3)
+	for i, c := range unknowns {
+		c.level = levelOpen + 2*i
+	}
+	inner := &cell{node: Node{Kind: TTuple, Kids: 2}, kids: unknowns[1:], level: levelOpen + 4}
+	outer := &cell{node: Node{Kind: TArrow, Kids: 2}, kids: []*cell{unknowns[0], inner}, level: levelOpen + 4}
+	for _, c := range []struct {
+		to   int
+		want [3]int
+	}{{9, [3]int{0, 2, 4}}, {4, [3]int{0, 2, 4}}, {3, [3]int{0, 2, 3}}, {1, [3]int{0, 1, 1}}, {2, [3]int{0, 1, 1}}, {0, [3]int{0, 0, 0}}} {
+		outer.lower(levelOpen + c.to)
+		for i, want := range c.want {
+			if unknowns[i].level != levelOpen+want {
+				t.Errorf("down to %d: unknown %d has level %d, want %d", c.to, i, unknowns[i].level-levelOpen, want)
+			}
+		}
+	}
+}
+
+// An unknown that becomes a type brings that down to its own level, whichever stands first.
+func TestEquateLowers(t *testing.T) {
+	for turn := range 2 {
+		unknowns := unknownsOf(2)
+		unknowns[1].level = levelOpen + 5
+		list := &cell{node: Node{Kind: TCon, Text: "list", Kids: 1}, kids: unknowns[1:], level: levelOpen + 5}
+		pair := []*cell{unknowns[0], list}
+		if err := newStore().equate(pair[turn], pair[1-turn]); err != nil {
+			t.Fatal(err)
+		}
+		if unknowns[1].head().level != levelOpen || unknowns[0].head().level != levelOpen {
+			t.Errorf("turn %d: levels %d and %d", turn, unknowns[0].head().level, unknowns[1].head().level)
+		}
+		others := unknownsOf(2)
+		others[turn].level = levelOpen + 3
+		if err := newStore().equate(others[0], others[1]); err != nil || others[0].head().level != levelOpen {
+			t.Errorf("turn %d: two unknowns have level %d", turn, others[0].head().level)
+		}
+	}
+}
+
+// Circles are told as they were at a time, though paths have been compressed since.
+func TestCirclesInTime(t *testing.T) {
+	for size := 1; size <= 20; size++ {
+		s := newStore()
+		unknowns := []*cell{}
+		for i := range size {
+			unknowns = append(unknowns, s.unknown(Node{Kind: TMeta, Num: int64(i + 1)}, levelOpen))
+		}
+		for i, c := range unknowns {
+			s.now = 2 * i
+			next := unknowns[(i+1)%size]
+			if err := s.equate(c, &cell{node: Node{Kind: TCon, Text: "list", Kids: 1}, kids: []*cell{next}}); err != nil {
+				t.Fatal(err)
+			}
+		}
+		closed := s.now
+		for _, c := range unknowns {
+			s.now++
+			if err := s.equate(c, s.unknown(Node{Kind: TMeta, Num: int64(100 + s.now)}, levelOpen)); err != nil {
+				t.Fatal(err)
+			}
+			c.head()
+		}
+		for range 2 {
+			for at := range s.now + 1 {
+				if s.hasCircle(at) != (at >= closed) {
+					t.Errorf("%d types: at %d a circle is told as %v, it was closed at %d", size, at, s.hasCircle(at), closed)
+				}
+			}
+		}
+		if s.firstCircle() != closed {
+			t.Errorf("%d types: first circle at %d, want %d", size, s.firstCircle(), closed)
+		}
 	}
 }
