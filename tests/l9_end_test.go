@@ -96,6 +96,13 @@ func TestEndUses(t *testing.T) {
 	usesAre(t, "datatype 'a t = A of 'a type 'a u = 'a t exception E")
 }
 
+// A clause whose type was made before, with an unknown in the place of what it is made of now.
+func TestEndUsesOfTypesMadeBefore(t *testing.T) {
+	usesAre(t, "val a = fn h => (h = (fn 1 => 1), fn 2 => h) fun f 1 2 = 3", "EFn: int", "EFn: int", "EFn: [int, int]", "DVal: [[int, int], (bool, [int, [int, int]])]", "FBind f: int, int")
+	usesAre(t, "val a = fn h => (h = (fn 1 => 1), fn () => h) fun f () 2 = 3 fun g 1 = 2", "EFn: int", "EFn: ()", "EFn: [int, int]",
+		"DVal: [[int, int], (bool, [(), [int, int]])]", "FBind f: (), int", "FBind g: int")
+}
+
 // Types of the variables of a binder where it is used.
 func TestEndUsesOfBinders(t *testing.T) {
 	usesAre(t, "fun id x = x val a = (id 1, nil, id)",

@@ -54,7 +54,7 @@ func TestLargeGeneral(t *testing.T) {
 // At the end, at the first node of a binder or a use.
 func TestLargeAtTheEnd(t *testing.T) {
 	max := impl.MaxType
-	front := "datatype 'a opt = None | Some of 'a fun id x = x "
+	front := "datatype 'a opt = None | Some of 'a datatype ('a, 'b) two = Two of 'a * 'b fun id x = x fun k _ _ = 1 "
 	for _, c := range []struct {
 		src   string
 		size  int
@@ -75,6 +75,10 @@ func TestLargeAtTheEnd(t *testing.T) {
 		{"val _ = (case Some $ of Some _ => 1)", max, impl.ECon, "Some", 1},
 		{"val _ = (fn None => 1 | Some _ => 2) (Some $)", max - 1, impl.EFn, "", 1},
 		{"val _ = (ref $; 1)", max, impl.EVar, "ref", 1},
+		{"val _ = (Two (1, $); 1)", max, impl.ECon, "Two", 1},
+		{"val _ = (Two ($, 1); 1)", max, impl.ECon, "Two", 1},
+		{"val _ = k 1 $", max, impl.EVar, "k", 1},
+		{"val _ = k $ 1", max, impl.EVar, "k", 1},
 		{"val _ = ((raise Div) = $)", max, impl.ERaise, "", 1},
 		{"val _ = (fn _ => 1) $", max, impl.EFn, "", 1},
 		{"val _ = (fn x => 1) $", max, impl.PVar, "x", 2},
