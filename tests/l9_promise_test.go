@@ -13,7 +13,7 @@ import (
 // Programs that are made up have the types that are found by hand.
 func TestInferMadeUpPrograms(t *testing.T) {
 	codes, counts, kinds := map[int]int{}, map[int]int{}, map[int]int{}
-	codedPrograms(t, 1200, func(c *coder, src string, program []impl.Node) {
+	codedPrograms(t, 800, func(c *coder, src string, program []impl.Node) {
 		typed := checkInfer(t, program)
 		codes[typed.Code]++
 		for _, b := range typed.Binders {
@@ -323,7 +323,7 @@ func leftOpen(program []impl.Node, binder int) bool {
 func TestInferPromiseOfPrincipalTypesMadeUp(t *testing.T) {
 	small := groundTypes(3)
 	cans, cannots := 0, 0
-	codedPrograms(t, 400, func(c *coder, src string, program []impl.Node) {
+	codedPrograms(t, 300, func(c *coder, src string, program []impl.Node) {
 		typed := impl.Infer(program)
 		decs := impl.Kids(program)
 		last := decs[len(decs)-1]
