@@ -50,14 +50,11 @@ func Deep(t []Node) int {
 	if len(t) > MaxNodes {
 		return 0
 	}
-	last := span{}
-	for s := range spans(t) {
-		last = s
-	}
-	if last.from != 0 || last.root != len(t)-1 || last.deep > MaxDeep {
+	deep := deepOf(t)
+	if deep > MaxDeep {
 		return 0
 	}
-	return last.deep
+	return deep
 }
 
 func Part(t []Node, i int) []Node {
@@ -70,6 +67,18 @@ func Part(t []Node, i int) []Node {
 		}
 	}
 	return []Node{}
+}
+
+// deepOf is 0 for a list that is no term, however large and deep that may be.
+func deepOf(t []Node) int {
+	last := span{}
+	for s := range spans(t) {
+		last = s
+	}
+	if last.from != 0 || last.root != len(t)-1 {
+		return 0
+	}
+	return last.deep
 }
 
 // join never appends to a kid, since behind it may stand what belongs to somebody else.
