@@ -44,6 +44,7 @@ func TestElaborateNoProgram(t *testing.T) {
 	}
 	lists["a dec"] = oneDec(t, "val x = 1")
 	lists["an exp"] = made(impl.EInt, 1, "")
+	lists["a let with no decs"] = programOf(made(impl.DVal, 0, "", made(impl.PWild, 0, ""), made(impl.ELet, 0, "", made(impl.EInt, 1, ""))))
 	lists["code"] = unplaced(impl.CInt, 1, "")
 	lists["other numbers"] = resolved(t, "fun f x = x")
 	lists["other numbers"][0].Num = 3
