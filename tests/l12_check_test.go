@@ -295,6 +295,9 @@ func TestTypeOfInstances(t *testing.T) {
 		{"CInst(CInst(CAll 2(CAll 1(CInst(CInst(CVar 1, #1), #2))), int), bool)", "[bool, [int, bool]]"},
 		{"CInst(CInst(CInst(CAll 2(CAll 1(CInst(CVar 1, (#1, #2)))), int), bool), string)", "[(bool, int), [string, (bool, int)]]"},
 		{"CTuple(CInst(CInst(CVar 1, int), bool), CInst(CInst(CVar 1, bool), int))", "([int, [bool, int]], [bool, [int, bool]])"},
+		// A variable more in front, and none more for the binder itself.
+		{"CTuple(CInst(CInst(CInst(CAll 4(CVar 1), t), int), bool), CInst(CInst(CVar 1, int), bool))", "([int, [bool, int]], [int, [bool, int]])"},
+		{"CTuple(CInst(CInst(CAll 4(CInst(CVar 1, #4)), t), bool), CInst(CInst(CVar 1, int), bool))", "([t, [bool, t]], [int, [bool, int]])"},
 	} {
 		typeIsShown(t, strings.ReplaceAll(k, "$", c[0]), c[1])
 	}

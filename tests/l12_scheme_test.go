@@ -86,6 +86,15 @@ func TestSameScheme(t *testing.T) {
 	for _, it := range [][]impl.Node{typeMeta(1), unplaced(impl.TVar, 0, "a"), unplaced(impl.TNum, 1, "a"), unplaced(impl.TCon, 1, "int"), unplaced(impl.TAll, 1, "a", intType), unplaced(impl.TTuple, 1, ""), unplaced(impl.TAll, 1, "", typeMeta(2)), typeCon("list", typeMeta(1)), unplaced(impl.EInt, 1, "")} {
 		sameIs(t, it, it, false)
 	}
+	// One of them is wrong in what need not be the same.
+	for wrong, right := range map[string]string{"TAll 0(#0)": "TAll 1(#1)", "TAll -1(#-1)": "TAll 1(#1)", "TAll -3(int)": "TAll 3(int)", "TAll 1(TAll 1(#1))": "TAll 1(TAll 2(#2))", "TAll 2(TAll 2(int))": "TAll 1(TAll 2(int))", "TAll \"a\" 1(int)": "TAll 1(int)", "TAll 1(TAll 2(TAll 1([#2, int])))": "TAll 1(TAll 2(TAll 3([#2, int])))"} {
+		one, _ := codeOf(t, wrong)
+		other, _ := codeOf(t, right)
+		sameIs(t, one, other, false)
+	}
+	at := allsOver(1, intType)
+	at[1].At = 2
+	sameIs(t, at, allsOver(1, intType), false)
 	placed := slices.Clone(intType)
 	placed[0].At = 3
 	sameIs(t, placed, placed, false)
