@@ -37,7 +37,7 @@ func codeList() []codeListed {
 		{impl.PCon, "p", "0", "any", "p?", "p"},
 		{impl.PTuple, "p", "0", "none", "(pp+)?", "pp"},
 		{impl.CVar, "c", "+", "none", "", ""},
-		{impl.CGiven, "c", "given", "none", "", ""},
+		{impl.CGiven, "c", "given", "none", "a type for ref", ""},
 		{impl.CInt, "c", "any", "none", "", ""},
 		{impl.CStr, "c", "0", "any", "", ""},
 		{impl.CCon, "c", "0", "any", "t*", "tt"},
@@ -85,8 +85,8 @@ func (l codeListed) textFits(text string) bool {
 
 func (l codeListed) kidsFit(num int64, letters string) bool {
 	kids := l.kids
-	if l.kind == impl.CGiven && num == -8 {
-		kids = "t"
+	if kids == "a type for ref" {
+		kids = map[bool]string{true: "t", false: ""}[num == -8]
 	}
 	if kidPatterns[kids] == nil {
 		kidPatterns[kids] = regexp.MustCompile("^(" + kids + ")$")
@@ -176,6 +176,11 @@ func formIs(t *testing.T, letter string, part []impl.Node, want bool) {
 
 // formAgain tells the form again, by letters.
 func formAgain(c []impl.Node) bool {
+	return formOf(codeList(), c)
+}
+
+// formOf is whether a list of nodes is code by such a list of kinds.
+func formOf(list []codeListed, c []impl.Node) bool {
 	if len(c) > impl.MaxCode {
 		return false
 	}
@@ -183,7 +188,7 @@ func formAgain(c []impl.Node) bool {
 		letter string
 		alls   int
 	}
-	list, free := codeList(), []part{}
+	free := []part{}
 	for _, n := range c {
 		at := slices.IndexFunc(list, func(l codeListed) bool { return l.kind == n.Kind })
 		if at < 0 || n.Kids < 0 || n.Kids > len(free) || n.At != 0 {
