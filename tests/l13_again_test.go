@@ -313,7 +313,7 @@ func (r *runTeller) compare(a *toldValue, b *toldValue) (bool, toldEnd) {
 	switch {
 	case function(a) || function(b):
 		return false, raises("Equal")
-	case a.sort != b.sort:
+	case a.sort != b.sort || a.sort == "tuple" && len(a.parts) != len(b.parts):
 		return false, toldStuck
 	case a.sort == "ref":
 		return a == b, toldEnd{}

@@ -33,8 +33,6 @@ func TestCompareValues(t *testing.T) {
 		{"CInt 1", "CInt 1", true, 1}, {"CInt 1", "CInt 2", false, 1}, {"CInt -9223372036854775808", "CInt 9223372036854775807", false, 1}, {"CInt 0", "CInt 0", true, 1},
 		{`CStr ""`, `CStr ""`, true, 1}, {`CStr "a"`, `CStr "a"`, true, 1}, {`CStr "a"`, `CStr "b"`, false, 1}, {`CStr "a"`, `CStr "ab"`, false, 1}, {`CStr "\xff"`, `CStr "\xfe"`, false, 1},
 		{"CTuple", "CTuple", true, 1}, {"CTuple(CInt 1, CInt 2)", "CTuple(CInt 1, CInt 2)", true, 3}, {"CTuple(CInt 1, CInt 2)", "CTuple(CInt 1, CInt 3)", false, 3}, {"CTuple(CInt 1, CInt 2)", "CTuple(CInt 0, CInt 2)", false, 2},
-		// Tuples of unlike sizes differ, and their parts are not looked at.
-		{"CTuple", "CTuple(CInt 1, CInt 2)", false, 1}, {"CTuple(CInt 1, CInt 2)", "CTuple(CInt 1, CInt 2, CInt 3)", false, 1}, {"CTuple(CInt 1, CInt 2, CInt 3)", "CTuple(CInt 1, CInt 2)", false, 1}, {`CTuple(CInt 1, CInt 2)`, `CTuple(CStr "", CGiven -1, CInt 1)`, false, 1},
 		// Up to the first that differ: what is behind it may be anything.
 		{`CTuple(CInt 1, CStr "a", CInt 3)`, `CTuple(CInt 2, CInt 5, CGiven -1)`, false, 2}, {"CTuple(CInt 1, CTuple(CInt 2, CInt 3), CGiven -1)", "CTuple(CInt 1, CTuple(CInt 2, CInt 4), CGiven -1)", false, 5},
 		{`CCon "A"`, `CCon "A"`, true, 1}, {`CCon "A"`, `CCon "B"`, false, 1}, {`CCon "true"`, `CCon "false"`, false, 1}, {con("A", "CInt 1"), con("A", "CInt 1"), true, 2}, {con("A", "CInt 1"), con("A", "CInt 2"), false, 2},
@@ -103,10 +101,10 @@ func TestCompareFunctions(t *testing.T) {
 	}
 }
 
-// Other kinds with each other are stuck, at once and inside.
+// Other kinds with each other are stuck, at once and inside; so are tuples of unlike sizes.
 func TestCompareOtherKinds(t *testing.T) {
 	values := []struct{ sort, code string }{
-		{"int", "CInt 1"}, {"string", `CStr "1"`}, {"tuple", "CTuple"}, {"tuple", "CTuple(CInt 1, CInt 1)"}, {"con", `CCon "A"`}, {"con", `CApp(CCon "A", CInt 1)`}, {"ref", "CApp(CGiven -8, CInt 1)"},
+		{"int", "CInt 1"}, {"string", `CStr "1"`}, {"tuple of 0", "CTuple"}, {"tuple of 2", "CTuple(CInt 1, CInt 1)"}, {"tuple of 3", "CTuple(CInt 1, CInt 1, CInt 1)"}, {"con", `CCon "A"`}, {"con", `CApp(CCon "A", CInt 1)`}, {"ref", "CApp(CGiven -8, CInt 1)"},
 	}
 	for _, a := range values {
 		for _, b := range values {
@@ -126,6 +124,20 @@ func TestCompareOtherKinds(t *testing.T) {
 			comparesTo(t, `CTuple(CInt 1, `+a.code+`)`, `CTuple(CInt 2, `+b.code+`)`, false, 2)
 		}
 	}
+}
+
+// Tuples of unlike sizes: their parts are not looked at, and what differs ahead of them ends it before.
+func TestCompareTuplesOfUnlikeSizes(t *testing.T) {
+	two, three := "CTuple(CInt 1, CInt 2)", "CTuple(CInt 1, CInt 2, CInt 3)"
+	isStuck(t, `CBin "="(`+two+`, `+three+`)`, 9)
+	isStuck(t, `CBin "<>"(CTuple, `+two+`)`, 6)
+	isStuck(t, `CBin "="(`+two+`, CTuple(CStr "", CGiven -1, CInt 1))`, 9)
+	isStuck(t, `CBin "="(CTuple(CGiven -1, CInt 2), `+three+`)`, 9)
+	isStuck(t, `CBin "="(CTuple(CInt 1, `+two+`), CTuple(CInt 1, `+three+`))`, 15)
+	comparesTo(t, `CTuple(CInt 1, `+two+`)`, `CTuple(CInt 2, `+three+`)`, false, 2)
+	comparesTo(t, `CApp(CCon "A", `+two+`)`, `CApp(CCon "B", `+three+`)`, false, 1)
+	// A constructor with a value differs from one without, whatever that is.
+	comparesTo(t, `CApp(CCon "A", `+two+`)`, `CCon "A"`, false, 1)
 }
 
 func checkRunOf(t *testing.T, code string) impl.Outcome {
