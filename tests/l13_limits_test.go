@@ -269,7 +269,13 @@ func TestRunLeavesNoGoroutine(t *testing.T) {
 			impl.Run(c, fuel-1)
 		}
 	}
-	// One that has said that it is done may still be on its last way.
+	noneLeft(t, before)
+}
+
+// noneLeft wants no more goroutines than there were. One that has said that it is done may still be on
+// its last way.
+func noneLeft(t *testing.T, before int) {
+	t.Helper()
 	for range 200 {
 		if runtime.NumGoroutine() <= before {
 			return

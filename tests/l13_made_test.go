@@ -17,17 +17,18 @@ type plainName struct {
 }
 
 // plainMaker makes up plain code that goes well for a while most of the time: it thinks of sorts of
-// values, not of types, and slips now and then. Numbers are few.
+// values, not of types, and slips now and then. Numbers are few, if not said otherwise.
 type plainMaker struct {
 	drawer
 	scope []plainName
 	slips int
+	nums  int
 }
 
 const plainSorts = "int string bool unit tuple con fun ref list"
 
 func (m *plainMaker) num() int64 {
-	return int64(1 + m.rnd.Intn(6))
+	return int64(1 + m.rnd.Intn(max(6, m.nums)))
 }
 
 func (m *plainMaker) within(num int64, sort string, one func() []impl.Node) []impl.Node {
